@@ -1,46 +1,28 @@
 package json_test
 
 import (
-	"fmt"
 	"runtime/debug"
-	"slices"
-	"strings"
 	"testing"
 	"unsafe"
 
 	"outlaw/api"
 	"outlaw/json"
+	"outlaw/jsontest"
 )
 
-func null() api.Json              { return api.Json{Kind: api.JsonNull} }
-func truth(n int64) api.Json      { return api.Json{Kind: api.JsonBool, N: n} }
-func number(n int64) api.Json     { return api.Json{Kind: api.JsonNumber, N: n} }
-func text(s string) api.Json      { return api.Json{Kind: api.JsonText, Text: s} }
-func list(v ...api.Json) api.Json { return api.Json{Kind: api.JsonList, Items: v} }
-
-// object takes its keys in one text, separated by blanks.
-func object(keys string, v ...api.Json) api.Json {
-	return api.Json{Kind: api.JsonObject, Keys: strings.Fields(keys), Items: v}
-}
-
-// show writes all fields of any value, so that equal texts mean equal values.
-func show(v api.Json) string {
-	var b strings.Builder
-	fmt.Fprintf(&b, "%d %d %q %q (", v.Kind, v.N, v.Text, v.Keys)
-	for _, x := range v.Items {
-		b.WriteString(show(x))
-	}
-	b.WriteByte(')')
-	return b.String()
-}
-
-func nestedLists(n int) api.Json {
-	v := list()
-	for range n - 1 {
-		v = list(v)
-	}
-	return v
-}
+// The values of the tests, by short names.
+var (
+	null        = jsontest.Null
+	truth       = jsontest.Truth
+	number      = jsontest.Number
+	text        = jsontest.Text
+	list        = jsontest.List
+	object      = jsontest.Object
+	nestedLists = jsontest.NestedLists
+	show        = jsontest.Show
+	roomy       = jsontest.Roomy
+	showAll     = jsontest.ShowAll
+)
 
 // P2.1: the depth is 0 for what is no list and no object, whatever its Items are.
 func TestDepth(t *testing.T) {
@@ -102,26 +84,10 @@ func TestCount(t *testing.T) {
 	}
 }
 
-// different are values of which no two are equal, many of them not valid.
-func different() []api.Json {
-	return []api.Json{
-		{}, {Kind: -1}, {Kind: 7}, {N: 1}, {Text: "a"}, {Keys: []string{""}}, {Items: []api.Json{{}}},
-		null(), truth(0), truth(1), truth(2), number(0), number(1), number(-1), text(""), text("a"), text("b"), text("\xff"),
-		list(), list(null()), list(null(), null()), list(list()), list(list(), null()), list(null(), list()), list(text("a")), list(text("b")),
-		list(list(text("a")), null()), list(list(text("b")), null()), list(list(text("a")), list()),
-		object(""), object("a"), object("b"), object("", null()), object("a", null()), object("b", null()), object("a", truth(0)),
-		object("a b", number(1), number(2)), object("b a", number(2), number(1)), object("a b", number(2), number(1)), object("b a", number(1), number(2)),
-		object("a a", number(1), number(2)), object("a a", number(2), number(1)), object("a b", number(1)), object("ab", number(1), number(2)),
-		object("a", object("a", null())), object("a", object("b", null())),
-		{Kind: api.JsonText, N: 1, Text: "a"}, {Kind: api.JsonText, Text: "a", Keys: []string{"a"}},
-		{Kind: api.JsonText, Text: "a", Items: []api.Json{{}}}, {Kind: api.JsonText, Text: "a", Items: []api.Json{{N: 1}}},
-	}
-}
-
 // P2.1: Same compares all fields of any values; a nil slice is an empty one.
 func TestSame(t *testing.T) {
-	for i, a := range different() {
-		for j, b := range different() {
+	for i, a := range jsontest.Different() {
+		for j, b := range jsontest.Different() {
 			if json.Same(a, b) != (i == j) {
 				t.Errorf("%s and %s: %v", show(a), show(b), i != j)
 			}
@@ -133,52 +99,9 @@ func TestSame(t *testing.T) {
 	}
 }
 
-// roomy gives every slice in v spare capacity, filled.
-func roomy(v api.Json) api.Json {
-	v.Keys = append(append(make([]string, 0, len(v.Keys)+2), v.Keys...), "spare", "more")[:len(v.Keys)]
-	old := v.Items
-	v.Items = make([]api.Json, 0, len(old)+2)
-	for _, x := range old {
-		v.Items = append(v.Items, roomy(x))
-	}
-	v.Items = append(v.Items, text("spare"), text("more"))[:len(old)]
-	return v
-}
-
-// showAll is show of v with the spare capacity of its slices.
-func showAll(v api.Json) string {
-	v.Keys = v.Keys[:cap(v.Keys)]
-	v.Items = slices.Clone(v.Items[:cap(v.Items)])
-	shown := make([]string, len(v.Items))
-	for i, x := range v.Items {
-		shown[i] = showAll(x)
-	}
-	v.Items = nil
-	return show(v) + fmt.Sprint(shown)
-}
-
-// places adds where the elements of all slices in v are, with their spare capacity, and reports whether none was known.
-func places(v api.Json, known map[any]bool) bool {
-	fresh := true
-	add := func(p any) {
-		fresh = fresh && !known[p]
-		known[p] = true
-	}
-	for i := range cap(v.Keys) {
-		add(&v.Keys[:cap(v.Keys)][i])
-	}
-	for i := range cap(v.Items) {
-		add(&v.Items[:cap(v.Items)][i])
-	}
-	for _, x := range v.Items {
-		fresh = places(x, known) && fresh
-	}
-	return fresh
-}
-
 // P2.1: a copy is the same and shares no memory, neither with its original nor among its slices.
 func TestCopy(t *testing.T) {
-	all := append(different(), list(different()...), object("a b c", different()...))
+	all := append(jsontest.Different(), list(jsontest.Different()...), object("a b c", jsontest.Different()...))
 	twin := object("k l", list(null()), text("x"))
 	all = append(all, list(twin, twin, list(twin)), nestedLists(20))
 	for _, v := range all {
@@ -188,9 +111,7 @@ func TestCopy(t *testing.T) {
 		if show(c) != show(v) || !json.Same(c, v) {
 			t.Errorf("%s: the copy is %s", show(v), show(c))
 		}
-		known := map[any]bool{}
-		places(v, known)
-		if !places(c, known) {
+		if !jsontest.Apart(v, c) {
 			t.Errorf("%s: shared memory", show(v))
 		}
 		if showAll(v) != before {
@@ -257,7 +178,7 @@ func TestVeryDeep(t *testing.T) {
 
 // P2.1: none of the functions changes what it is given.
 func TestArgumentsStay(t *testing.T) {
-	for _, v := range append(different(), list(different()...), nestedLists(12), list(make([]api.Json, 500)...)) {
+	for _, v := range append(jsontest.Different(), list(jsontest.Different()...), nestedLists(12), list(make([]api.Json, 500)...)) {
 		v, w := roomy(v), roomy(v)
 		before := showAll(v)
 		json.Check(v)

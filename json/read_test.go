@@ -8,6 +8,7 @@ import (
 
 	"outlaw/api"
 	"outlaw/json"
+	"outlaw/jsontest"
 )
 
 func readIs(t *testing.T, s string, depth int, v api.Json, size int, e api.Errno) {
@@ -291,12 +292,11 @@ func TestReadLong(t *testing.T) {
 // Rule 3: no two slices of a value that was read share memory.
 func TestReadIsNew(t *testing.T) {
 	s := `{"a":[[],[1],{"b":[1,2,3],"c":{}}],"d":[1,2,3,4,5]}`
-	known := map[any]bool{}
-	for range 2 {
-		v, _, _ := json.Read(s, 8)
-		w, _ := json.Parse(s)
-		if !places(v, known) || !places(w, known) {
-			t.Error("shared memory")
-		}
+	v, _, _ := json.Read(s, 8)
+	w, _, _ := json.Read(s, 8)
+	x, _ := json.Parse(s)
+	y, _ := json.Parse(s)
+	if !jsontest.Apart(v, w, x, y) {
+		t.Error("shared memory")
 	}
 }
