@@ -3,13 +3,13 @@ package event_test
 import (
 	"fmt"
 	"runtime/debug"
-	"slices"
 	"strings"
 	"testing"
 	"unsafe"
 
 	"outlaw/api"
 	"outlaw/event"
+	"outlaw/eventtest"
 	"outlaw/json"
 	"outlaw/jsontest"
 )
@@ -22,6 +22,14 @@ var (
 	text   = jsontest.Text
 	list   = jsontest.List
 	object = jsontest.Object
+)
+
+// What is done with the events of the tests, by short names.
+var (
+	but     = eventtest.But
+	show    = eventtest.Show
+	showAll = eventtest.ShowAll
+	roomy   = eventtest.Roomy
 )
 
 // plain returns the event of the chapter's example.
@@ -42,31 +50,6 @@ func redaction() api.Event {
 	e := plain()
 	e.Type, e.Redacts = "m.room.redaction", "$x"
 	return e
-}
-
-// but returns e after the changes.
-func but(e api.Event, changes ...func(e *api.Event)) api.Event {
-	for _, change := range changes {
-		change(&e)
-	}
-	return e
-}
-
-// show writes all fields of any event, so that equal texts mean equal events.
-func show(e api.Event) string {
-	return fmt.Sprintf("%q %q %q %q %v %q %d %q %q %s", e.ID, e.Room, e.Sender, e.Type, e.State, e.Key, e.TS, slices.Clip(e.Prev), e.Redacts, jsontest.Show(e.Body))
-}
-
-// roomy returns a copy of e in which every slice has spare capacity, filled.
-func roomy(e api.Event) api.Event {
-	e.Prev = append(slices.Clone(e.Prev), "$spare", "$more")[:len(e.Prev)]
-	e.Body = jsontest.Roomy(e.Body)
-	return e
-}
-
-// showAll is show with the spare capacity of the slices.
-func showAll(e api.Event) string {
-	return fmt.Sprintf("%s %q %s", show(e), e.Prev[:cap(e.Prev)], jsontest.ShowAll(e.Body))
 }
 
 // different returns events of which no two are equal, many of them not valid.
